@@ -179,7 +179,7 @@ steps:
 
 // orderOf returns the order that a word is.
 func orderOf(word int) api.OrOrder {
-	o, _ := order.Decode(word) // All words of a state are words.
+	o, _ := order.Decode(word) // Check has found that there are only words.
 	return o
 }
 
